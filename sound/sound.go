@@ -12,7 +12,7 @@ func Check(l []int) error {
 	if len(l) > api.MaxSound {
 		return api.ErrFull
 	}
-	if slices.ContainsFunc(l, beyond(api.MaxValue)) {
+	if slices.ContainsFunc(l, Beyond(api.MaxValue)) {
 		return api.ErrRange
 	}
 	return nil
@@ -72,8 +72,8 @@ func checkTwo(a, b []int) error {
 	return nil
 }
 
-// beyond holds a number against both bounds, not its distance from 0: the least int has none.
-func beyond(bound int) func(int) bool {
+// Beyond holds a number against both bounds, not its distance from 0: the least int has none.
+func Beyond(bound int) func(int) bool {
 	return func(n int) bool { return n < -bound || n > bound }
 }
 

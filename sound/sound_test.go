@@ -213,3 +213,19 @@ func TestMixIsFreshEachTime(t *testing.T) {
 		t.Error("Mix of a list with itself shares its memory")
 	}
 }
+
+func TestBeyond(t *testing.T) {
+	for _, bound := range []int{0, 1, 1000, 4000} {
+		far := sound.Beyond(bound)
+		for _, n := range []int{-bound, 0, bound} {
+			if far(n) {
+				t.Errorf("%d is not beyond %d", n, bound)
+			}
+		}
+		for _, n := range []int{-bound - 1, bound + 1, math.MaxInt, math.MinInt, math.MinInt + 1} {
+			if !far(n) {
+				t.Errorf("%d is beyond %d", n, bound)
+			}
+		}
+	}
+}

@@ -31,7 +31,7 @@ func Loud(l []int) (int, error) {
 	if err := Check(l); err != nil {
 		return 0, err
 	}
-	return sum(l, distance), nil
+	return sum(l, Distance), nil
 }
 
 // Apart are two so much.
@@ -41,7 +41,7 @@ func Apart(a, b []int) (int, error) {
 	}
 	most := 0
 	for i := range a {
-		most = max(most, distance(a[i]-b[i]))
+		most = max(most, Distance(a[i]-b[i]))
 	}
 	return most, nil
 }
@@ -77,8 +77,8 @@ func Beyond(bound int) func(int) bool {
 	return func(n int) bool { return n < -bound || n > bound }
 }
 
-// distance from 0.
-func distance(n int) int {
+// Distance from 0, of what is known to be in bounds: the least int has none.
+func Distance(n int) int {
 	return max(n, -n)
 }
 

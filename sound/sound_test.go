@@ -229,3 +229,11 @@ func TestBeyond(t *testing.T) {
 		}
 	}
 }
+
+func TestDistance(t *testing.T) {
+	for n, want := range map[int]int{0: 0, 1: 1, -1: 1, 1000: 1000, -1000: 1000, math.MaxInt: math.MaxInt, math.MinInt + 1: math.MaxInt} {
+		if got := sound.Distance(n); got != want {
+			t.Errorf("Distance of %d: %d, want %d", n, got, want)
+		}
+	}
+}

@@ -236,7 +236,7 @@ func TestTheGreatestRestIsNotTheGreatestNumber(t *testing.T) {
 func TestNoneIsNearer(t *testing.T) {
 	for at, v := range rows() {
 		for k := 1; k <= 8; k++ {
-			if len(v) > 3 && at%9 != k {
+			if len(v) > 3 && at%8+1 != k {
 				continue
 			}
 			p, _ := near.Of(v, k)

@@ -98,15 +98,20 @@ func toldBytes(f, l []int) string {
 	return octets(byte(number>>16), byte(number>>8), byte(number)) + string(off)
 }
 
-// toldMost is how many bytes there are at most, each sign's bits counted by doubling.
-func toldMost(f, l []int) int {
+// toldBits is how many bits the signs of a row need, each counted by doubling.
+func toldBits(f, l []int) int {
 	bits := 0
 	for _, sign := range l {
 		for share := f[sign]; share < 256; share *= 2 {
 			bits++
 		}
 	}
-	return 3 + bits/8 + 1
+	return bits
+}
+
+// toldMost is how many bytes there are at most.
+func toldMost(f, l []int) int {
+	return 3 + toldBits(f, l)/8 + 1
 }
 
 // encoded checks the bytes of a row, and that they are the row again.
@@ -134,7 +139,15 @@ func atMost(t *testing.T, f, l []int, want int) {
 	}
 }
 
-// notEncoded checks that Encode and Most tell an error, and answer nothing else.
+// needed checks how many bits a row needs.
+func needed(t *testing.T, f, l []int, want int) {
+	t.Helper()
+	if got, err := horn.Bits(f, l); got != want || err != nil {
+		t.Errorf("Bits of %v, %v: %d %v, want %d", f, l, got, err, want)
+	}
+}
+
+// notEncoded checks that Encode, Most and Bits tell an error, and answer nothing else.
 func notEncoded(t *testing.T, f, l []int, want api.Errno) {
 	t.Helper()
 	if got, err := horn.Encode(f, l); got != "" || plain.Told(err) != want {
@@ -142,6 +155,9 @@ func notEncoded(t *testing.T, f, l []int, want api.Errno) {
 	}
 	if got, err := horn.Most(f, l); got != 0 || plain.Told(err) != want {
 		t.Errorf("Most of %v, %v: %d %v, want %v", f, l, got, err, want)
+	}
+	if got, err := horn.Bits(f, l); got != 0 || plain.Told(err) != want {
+		t.Errorf("Bits of %v, %v: %d %v, want %v", f, l, got, err, want)
 	}
 }
 
@@ -324,6 +340,7 @@ func TestBitsOfEachShare(t *testing.T) {
 		bits := int(math.Ceil(math.Log2(256 / float64(share))))
 		for _, many := range []int{1, 7, 8, 9, 60} {
 			atMost(t, f, repeat(0, many), 4+bits*many/8)
+			needed(t, f, repeat(0, many), bits*many)
 		}
 	}
 }
@@ -346,6 +363,7 @@ func TestEveryRowThereAndBack(t *testing.T) {
 	eachRow(t, func(t *testing.T, f, l []int) {
 		encoded(t, f, l, toldBytes(f, l))
 		atMost(t, f, l, toldMost(f, l))
+		needed(t, f, l, toldBits(f, l))
 	})
 }
 
@@ -670,6 +688,7 @@ func TestListsAreLeftAlone(t *testing.T) {
 				givenShares, givenRow := wholeShares[:len(f)], wholeRow[:len(l)]
 				b, _ := horn.Encode(givenShares, givenRow)
 				horn.Most(givenShares, givenRow)
+				horn.Bits(givenShares, givenRow)
 				horn.Decode(givenShares, b, len(l))
 				horn.Decode(givenShares, octets(1, 2, 3, 4), len(l))
 				if !slices.Equal(wholeShares, keptShares) || !slices.Equal(wholeRow, keptRow) {

@@ -393,3 +393,45 @@ func TestPulsesAreFreshEachTime(t *testing.T) {
 		}
 	}
 }
+
+// spread checks the pulses of numbers that are not held against samples' bounds.
+func spread(t *testing.T, v []int, k int, want []int) {
+	t.Helper()
+	if got, err := near.Spread(v, k); !slices.Equal(got, want) || err != nil {
+		t.Errorf("Spread of %v, %d: %v %v, want %v", v, k, got, err, want)
+	}
+}
+
+func TestSpreadIsOfWithinItsBounds(t *testing.T) {
+	for _, v := range rows() {
+		for k := range 9 {
+			want, _ := near.Of(v, k)
+			spread(t, v, k, want)
+		}
+	}
+}
+
+func TestSpreadBeyondThem(t *testing.T) {
+	spread(t, []int{0, -2000}, 8, []int{0, -8})
+	spread(t, []int{2000, 1500}, 8, []int{5, 3})
+	spread(t, []int{-1001, 1001, 1001}, 8, []int{-3, 3, 2})
+	spread(t, []int{1 << 40, -1 << 40}, 8, []int{4, -4})
+	spread(t, slices.Repeat([]int{-2000}, 7), 8, []int{-2, -1, -1, -1, -1, -1, -1})
+	spread(t, []int{4001, -4001}, 0, []int{0, 0})
+}
+
+func TestWhatSpreadRefuses(t *testing.T) {
+	for _, k := range []int{-1, 9, math.MaxInt, math.MinInt} {
+		if got, err := near.Spread([]int{2000}, k); got != nil || plain.Told(err) != api.ErrRange {
+			t.Errorf("Spread with %d: %v %v", k, got, err)
+		}
+		if got, err := near.Spread([]int{0}, k); got != nil || plain.Told(err) != api.ErrRange {
+			t.Errorf("Spread of 0 with %d: %v %v", k, got, err)
+		}
+	}
+	for _, v := range [][]int{nil, {0}, {0, 0}} {
+		if got, err := near.Spread(v, 1); got != nil || plain.Told(err) != api.ErrNone {
+			t.Errorf("Spread of %v: %v %v", v, got, err)
+		}
+	}
+}

@@ -31,7 +31,7 @@ func Loud(l []int) (int, error) {
 	if err := Check(l); err != nil {
 		return 0, err
 	}
-	return sum(l, Distance), nil
+	return Distances(l), nil
 }
 
 // Apart are two so much.
@@ -80,6 +80,11 @@ func Beyond(bound int) func(int) bool {
 // Distance from 0, of what is known to be in bounds: the least int has none.
 func Distance(n int) int {
 	return max(n, -n)
+}
+
+// Distances from 0, added up, of numbers that are known to be in bounds, though not in those of samples.
+func Distances(l []int) int {
+	return sum(l, Distance)
 }
 
 // sum of what is made of each number.

@@ -237,3 +237,17 @@ func TestDistance(t *testing.T) {
 		}
 	}
 }
+
+func TestDistances(t *testing.T) {
+	for _, c := range []struct {
+		list []int
+		want int
+	}{
+		{nil, 0}, {[]int{0}, 0}, {[]int{3, -4, 0}, 7}, {[]int{5, -5}, 10}, {[]int{-2000, 2000}, 4000},
+		{[]int{1 << 40, -1}, 1<<40 + 1}, {repeat(-1001, api.MaxSound+1), 1001 * (api.MaxSound + 1)},
+	} {
+		if got := sound.Distances(c.list); got != c.want {
+			t.Errorf("Distances of %v: %d, want %d", c.list, got, c.want)
+		}
+	}
+}

@@ -7,6 +7,7 @@ import (
 
 	"pulsehorn/api"
 	"pulsehorn/frame"
+	"pulsehorn/plain"
 	"pulsehorn/pulse"
 	"pulsehorn/share"
 )
@@ -330,4 +331,34 @@ func TestTheFirstNamedIsToldByCheck(t *testing.T) {
 	checks(t, parts(part(0, 0), part(0, 4, 4)), sizes, -1, api.ErrRange)
 	checks(t, parts(part(0, 0), part(0, 4, 4)), sizes, 401, api.ErrRange)
 	checks(t, parts(part(0, 0), part(0, 4, 4)), sizes, 400, api.ErrShape)
+}
+
+// TestPulsesForGainsAlone has frames without pulses, and what is wrong with what goes beside them.
+func TestPulsesForGainsAlone(t *testing.T) {
+	eachFrame(t, func(made []api.Part, sizes []int, bits int) {
+		var bare []api.Part
+		var want []int
+		for _, p := range made {
+			bare, want = append(bare, part(p.Gain)), append(want, loudOf(p.Pulses))
+		}
+		if got, err := frame.PulsesFor(bare, sizes, bits); !slices.Equal(got, want) || err != nil {
+			t.Errorf("PulsesFor %v, %v, %d: %v %v, want %v", bare, sizes, bits, got, err, want)
+		}
+	})
+	for _, c := range []struct {
+		l     []api.Part
+		sizes []int
+		bits  int
+		want  api.Errno
+	}{
+		{parts(part(53)), []int{1}, 8, api.ErrRange},
+		{parts(part(13)), []int{7}, 8, api.ErrRange},
+		{nil, nil, 8, api.ErrNone},
+		{parts(part(13)), []int{1, 1}, 8, api.ErrShape},
+		{parts(part(13)), []int{1}, 401, api.ErrRange},
+	} {
+		if got, err := frame.PulsesFor(c.l, c.sizes, c.bits); len(got) != 0 || plain.Told(err) != c.want {
+			t.Errorf("PulsesFor %v, %v, %d: %v %v, want %v", c.l, c.sizes, c.bits, got, err, c.want)
+		}
+	}
 }
